@@ -63,6 +63,14 @@ func (n *node) reachesRoot(count int) bool {
 	return true
 }
 
+// link returns the number of the node above, or its own number if it is a root.
+func (n *node) link() int {
+	if n.above == nil {
+		return n.number
+	}
+	return n.above.number
+}
+
 // nodesOf returns the nodes of a valid forest, and none if it is not valid.
 func nodesOf(up []int) []node {
 	if len(up) < 1 || len(up) > MaxItems {
