@@ -97,6 +97,18 @@ func everyPair(n int) []impl.Pair {
 	return pairs
 }
 
+// everyPairs calls f with every list of so many pairs of n items.
+func everyPairs(n, count int, f func(pairs []impl.Pair)) {
+	every := everyPair(n)
+	everyList(count, 0, len(every)-1, func(list []int) {
+		pairs := make([]impl.Pair, count)
+		for i, at := range list {
+			pairs[i] = every[at]
+		}
+		f(pairs)
+	})
+}
+
 // mixedPairs returns so many pairs of n items by a short rule, another list for each seed.
 func mixedPairs(n, count, seed int) []impl.Pair {
 	pairs := make([]impl.Pair, count)
@@ -239,13 +251,8 @@ func TestJoinsOfLargeForests(t *testing.T) {
 // TestPairsOneBehindTheOther joins every list of up to three pairs in every forest of up to three items.
 func TestPairsOneBehindTheOther(t *testing.T) {
 	for n := 1; n <= 3; n++ {
-		every := everyPair(n)
 		for count := range 4 {
-			everyList(count, 0, len(every)-1, func(list []int) {
-				pairs := make([]impl.Pair, count)
-				for i, at := range list {
-					pairs[i] = every[at]
-				}
+			everyPairs(n, count, func(pairs []impl.Pair) {
 				checkUseful(t, n, pairs)
 				everyList(n, 0, n-1, func(up []int) {
 					if !validInModel(up) {
